@@ -1,6 +1,7 @@
 package head_test
 
 import (
+	"math"
 	"slices"
 	"testing"
 
@@ -22,6 +23,58 @@ func TestBack(t *testing.T) {
 			t.Errorf("Encode(%s): %d", show(h), e)
 		}
 		checkDecode(t, s, h, api.OK)
+	}
+}
+
+// ends are generations at both ends of what may be, and beyond them.
+func ends() []int64 {
+	return []int64{math.MinInt64, -1, 0, 1, 2, maxRev - 1, maxRev, maxRev + 1, maxRev + 2, 2 * maxRev, math.MaxInt64 - 1, math.MaxInt64}
+}
+
+// P9.5: whatever Encode doesn't refuse is read again.
+func TestBackAny(t *testing.T) {
+	r := newRow()
+	var counts [64]int
+	for range 2000 {
+		for _, gen := range ends() {
+			h := r.any()
+			h.Gen = gen
+			s, e := head.Encode(h)
+			counts[e]++
+			if e == api.OK {
+				checkDecode(t, s, h, api.OK)
+			}
+		}
+	}
+	for _, e := range []api.Errno{api.OK, api.ErrForm} {
+		if counts[e] < 1000 {
+			t.Errorf("error %d: only %d times", e, counts[e])
+		}
+	}
+}
+
+// P9.4: what Put has told to be written counts, also behind a Back; what it refuses has done nothing.
+func TestPutCounts(t *testing.T) {
+	for _, begin := range begins() {
+		old, _, was := plainLoad(begin[0], begin[1])
+		for _, gen := range ends() {
+			if was && gen <= old.Gen {
+				continue
+			}
+			d := firm(t, begin...)
+			if gen < 1 || gen > maxRev {
+				checkPut(t, d, of(gen), api.ErrForm)
+				checkDisk(t, d, firm(t, begin...))
+				continue
+			}
+			checkPut(t, d, of(gen), api.OK)
+			on := goesOn(begin[0], begin[1])
+			checkLoad(t, d, of(gen), on, true, api.OK)
+			if e := d.Back(nil); e != api.OK {
+				t.Fatal(e)
+			}
+			checkLoad(t, d, of(gen), on, true, api.OK)
+		}
 	}
 }
 

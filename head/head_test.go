@@ -36,11 +36,11 @@ func TestMay(t *testing.T) {
 	for _, h := range wrong() {
 		checkMay(t, h, false)
 	}
-	for _, gen := range []int64{1, 2, maxRev, maxRev + 1, math.MaxInt64 - 1, math.MaxInt64} {
+	for _, gen := range []int64{1, 2, maxRev - 1, maxRev} {
 		checkMay(t, of(gen), true)
 		checkMay(t, api.Head{Gen: gen}, false)
 	}
-	for _, gen := range []int64{0, -1, -maxRev, math.MinInt64 + 1, math.MinInt64} {
+	for _, gen := range []int64{0, -1, -maxRev, math.MinInt64 + 1, math.MinInt64, maxRev + 1, maxRev + 2, 2 * maxRev, math.MaxInt64 - 1, math.MaxInt64} {
 		checkMay(t, of(gen), false)
 	}
 	for snap := -3; snap < 40; snap++ {
@@ -110,7 +110,8 @@ func TestSame(t *testing.T) {
 func TestEncode(t *testing.T) {
 	checkEncode(t, api.Head{Gen: 300, Base: 129, Snap: 31, Log: []int{9, 2, 30}}, "\xAC\x02\x81\x01\x1F\x03\x09\x02\x1E", api.OK)
 	checkEncode(t, api.Head{Gen: maxRev, Base: maxRev, Snap: 2, Log: []int{3}}, "\x80\x80\x80\x80\x80\x20\x80\x80\x80\x80\x80\x20\x02\x01\x03", api.OK)
-	checkEncode(t, of(math.MaxInt64), "\xFF\xFF\xFF\xFF\xFF\xFF\xFF\xFF\x7F\x00\x00\x01\x02", api.OK)
+	checkEncode(t, of(maxRev), "\x80\x80\x80\x80\x80\x20\x00\x00\x01\x02", api.OK)
+	checkEncode(t, of(maxRev+1), "", api.ErrForm)
 	for _, h := range right() {
 		checkEncode(t, h, payload(h), api.OK)
 	}
@@ -139,7 +140,8 @@ func TestSize(t *testing.T) {
 	checkSize(t, api.Head{Gen: maxRev, Base: maxRev, Snap: 3, Log: []int{2}}, 24)
 	checkSize(t, of(127), 14)
 	checkSize(t, of(128), 15)
-	checkSize(t, of(math.MaxInt64), 22)
+	checkSize(t, of(maxRev), 19)
+	checkSize(t, of(maxRev+1), 0)
 	checkSize(t, api.Head{Gen: 1, Log: allTapes()}, 43)
 	for _, h := range right() {
 		checkSize(t, h, len(whole(h)))

@@ -116,7 +116,7 @@ func plainMay(h api.Head) bool {
 	if len(h.Log) == 0 || tapes[0] < 2 || tapes[count-1] > 31 || len(slices.Compact(tapes)) < count {
 		return false
 	}
-	return h.Gen >= 1 && h.Base >= 0 && h.Base <= maxRev && (h.Base == 0 || h.Snap != 0)
+	return h.Gen >= 1 && h.Gen <= maxRev && h.Base >= 0 && h.Base <= maxRev && (h.Base == 0 || h.Snap != 0)
 }
 
 // numbers are what stands in a payload.
@@ -400,6 +400,10 @@ func wrong() []api.Head {
 		{Gen: 0, Log: []int{2}},
 		{Gen: -1, Log: []int{2}},
 		{Gen: math.MinInt64, Log: []int{2}},
+		{Gen: maxRev + 1, Log: []int{2}},
+		{Gen: 2 * maxRev, Log: []int{2}},
+		{Gen: math.MaxInt64, Log: []int{2}},
+		{Gen: maxRev + 1, Base: maxRev, Snap: 3, Log: []int{2, 4}},
 		{Gen: 1, Base: -1, Snap: 3, Log: []int{2}},
 		{Gen: 1, Base: math.MinInt64, Snap: 3, Log: []int{2}},
 		{Gen: 1, Base: maxRev + 1, Snap: 3, Log: []int{2}},
@@ -436,7 +440,7 @@ func wrong() []api.Head {
 	}
 }
 
-// right are heads that may be, at the ends; their generations are up to MaxRev.
+// right are heads that may be, at the ends.
 func right() []api.Head {
 	return []api.Head{
 		{Gen: 1, Log: []int{2}},

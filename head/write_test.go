@@ -7,7 +7,6 @@ import (
 
 	"baton/api"
 	"baton/disk"
-	"baton/head"
 )
 
 // nones are tapes that have no head.
@@ -270,15 +269,14 @@ func TestPutFull(t *testing.T) {
 	}
 }
 
-// The chapter is not plain of generations above MaxRev: such a head may be, and is written, but Decode's row refuses it, so it never counts.
-func TestPutAboveMaxRev(t *testing.T) {
-	for _, gen := range []int64{maxRev + 1, math.MaxInt64} {
-		d := firm(t, whole(of(7)))
-		checkPut(t, d, of(gen), api.OK)
-		checkLoad(t, d, of(7), 0, true, api.OK)
-		checkNone(t, whole(of(gen)))
-		if _, e := head.Decode(payload(of(gen))); e != api.ErrTooLarge {
-			t.Errorf("generation %d: %d", gen, e)
-		}
+// The ends of the generations: that of MaxRev is put behind the one ahead of it; behind it there is no greater one, and it stays.
+func TestPutAtMaxRev(t *testing.T) {
+	d := firm(t, whole(of(maxRev-1)))
+	checkPut(t, d, of(maxRev), api.OK)
+	checkLoad(t, d, of(maxRev), 1, true, api.OK)
+	for _, gen := range []int64{maxRev + 1, 2 * maxRev, math.MaxInt64} {
+		checkPut(t, d, of(gen), api.ErrForm)
+		checkDisk(t, d, firm(t, whole(of(maxRev-1)), whole(of(maxRev))))
+		checkLoad(t, d, of(maxRev), 1, true, api.OK)
 	}
 }
